@@ -43,7 +43,7 @@ func MinusOf(f Frac) Frac {
 
 // LessOk reports whether a fraction is less than another one (FracOk); false for others.
 func LessOk(f Frac, g Frac) bool {
-	return FracOk(f) && FracOk(g) && f.crosswise(g) < g.crosswise(f)
+	return FracOk(f) && FracOk(g) && f.less(g)
 }
 
 // FracText returns the text of a fraction (FracOk): the number above the line, with a minus sign ahead if it is less than 0, a slash and the number below it, but without both if that is 1; "" for others.
@@ -60,16 +60,31 @@ func FracText(f Frac) string {
 
 // plus adds two valid fractions. The parts of the sum are less than 2^61 before they are divided, so it is exact.
 func (f Frac) plus(g Frac) (Frac, bool) {
-	up, down := lowestOf(f.crosswise(g)+g.crosswise(f), int64(f.Down)*int64(g.Down))
-	if !partOk(up) || !partOk(down) {
-		return Frac{}, false
-	}
-	return Frac{Up: int(up), Down: int(down)}, true
+	return fracOver(f.crosswise(g)+g.crosswise(f), int64(f.Down)*int64(g.Down))
+}
+
+// less reports whether a valid fraction is less than another one.
+func (f Frac) less(g Frac) bool {
+	return f.crosswise(g) < g.crosswise(f)
+}
+
+// more reports whether a valid fraction is more than another one.
+func (f Frac) more(g Frac) bool {
+	return g.less(f)
 }
 
 // crosswise returns f's number above the line times g's number below it. It is an int64 because an int may have 32 bits, too few for such a product.
 func (f Frac) crosswise(g Frac) int64 {
 	return int64(f.Up) * int64(g.Down)
+}
+
+// fracOver returns the fraction of two numbers, the second one not 0, and true; the zero value and false if its lowest terms are too great. Only these are bounded, so that products may be given, unlike to FracOf.
+func fracOver(up int64, down int64) (Frac, bool) {
+	up, down = lowestOf(up, down)
+	if !partOk(up) || !partOk(down) {
+		return Frac{}, false
+	}
+	return Frac{Up: int(up), Down: int(down)}, true
 }
 
 // partOk reports whether a number may stand above the line.
