@@ -46,10 +46,10 @@ func determinantByHand(part [][]int) int {
 	return sum
 }
 
-// bitsOf are the places of a set, in ascending order.
+// bitsOf are the places of a set of at most 16 places, in ascending order.
 func bitsOf(set int) []int {
 	var list []int
-	for at := range 4 {
+	for at := range 16 {
 		if set/(1<<at)%2 == 1 {
 			list = append(list, at)
 		}
